@@ -1,21 +1,12 @@
 package store
 
 import (
-	"math"
-
 	"athanor/api"
+	"athanor/bigs"
+	"athanor/heap"
 	"athanor/limbs"
 	"athanor/word"
 )
-
-// fixed is an integer's word, if it is in Fix's bounds.
-func fixed(x api.Int) (api.Word, bool) {
-	n, ok := limbs.To(x)
-	if !ok {
-		return 0, false
-	}
-	return word.Fix(n)
-}
 
 // number is the word of a number that is known to be in Fix's bounds.
 func number(n int64) api.Word {
@@ -29,35 +20,25 @@ func numberUpTo(most int64, w api.Word) (int64, bool) {
 	return n, ok && 0 <= n && n <= most
 }
 
-// bigFields are an integer's sign and limbs.
-func bigFields(x api.Int) []api.Word {
-	sign := number(0)
-	if x.Neg {
-		sign = number(1)
-	}
-	out := []api.Word{sign}
-	for _, limb := range x.Mag {
-		out = append(out, number(int64(limb)))
-	}
-	return out
+// lengthOfInt tells how many words the object of an integer has, with its head; 0, if it needs none.
+func lengthOfInt(digits string) int {
+	x, _ := limbs.Parse(digits, 10)
+	return bigs.Need(x)
 }
 
-// integer is the good integer whose sign and limbs fields are.
-func integer(fields []api.Word) (api.Int, bool) {
-	if len(fields) == 0 {
-		return api.Int{}, false
-	}
-	sign, ok := numberUpTo(1, fields[0])
+// layInt lays an integer, if it needs an object, and tells its word.
+func layInt(h *heap.Heap, digits string) api.Word {
+	x, _ := limbs.Parse(digits, 10)
+	w, _ := bigs.Lay(h, x)
+	return w
+}
+
+// bigNode is the node of an object that is an integer.
+func bigNode(h *heap.Heap, p api.Word) api.Node {
+	x, ok := bigs.Read(h, p)
 	if !ok {
-		return api.Int{}, false
+		return voidNode()
 	}
-	x := api.Int{Neg: sign == 1}
-	for _, w := range fields[1:] {
-		limb, ok := numberUpTo(math.MaxUint32, w)
-		if !ok {
-			return api.Int{}, false
-		}
-		x.Mag = append(x.Mag, uint32(limb))
-	}
-	return x, limbs.Good(x)
+	digits, _ := limbs.Print(x, 10)
+	return api.Node{Kind: api.GInt, Text: digits}
 }

@@ -6,7 +6,6 @@ import (
 	"athanor/api"
 	"athanor/graph"
 	"athanor/heap"
-	"athanor/limbs"
 	"athanor/word"
 )
 
@@ -48,14 +47,6 @@ func length(n api.Node) int {
 	return 0
 }
 
-func lengthOfInt(digits string) int {
-	x, _ := limbs.Parse(digits, 10)
-	if _, ok := fixed(x); ok {
-		return 0
-	}
-	return 2 + len(x.Mag)
-}
-
 // layAll lays nodes in their order, where there is room for them, and tells their words. Kids are put in behind that: one may lie behind who has it.
 func layAll(h *heap.Heap, t *Names, nodes []api.Node) []api.Word {
 	words := make([]api.Word, len(nodes))
@@ -95,16 +86,6 @@ func lay(h *heap.Heap, t *Names, n api.Node) api.Word {
 	case api.GVector:
 		w, _ = h.Fill(api.TVector, len(n.Kids), word.Null)
 	}
-	return w
-}
-
-// layInt lays an integer, if it is out of Fix's bounds, and tells its word.
-func layInt(h *heap.Heap, digits string) api.Word {
-	x, _ := limbs.Parse(digits, 10)
-	if w, ok := fixed(x); ok {
-		return w
-	}
-	w, _ := h.Alloc(api.TBig, bigFields(x)...)
 	return w
 }
 

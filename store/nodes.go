@@ -4,7 +4,6 @@ import (
 	"math"
 
 	"athanor/api"
-	"athanor/limbs"
 	"athanor/word"
 )
 
@@ -64,17 +63,4 @@ func bytesNode(fields []api.Word) api.Node {
 		out = append(out, byte(b))
 	}
 	return api.Node{Kind: api.GBytes, Text: string(out)}
-}
-
-// bigNode is the node of an integer that is out of Fix's bounds: one within them has a word of its own, and no other form.
-func bigNode(fields []api.Word) api.Node {
-	x, ok := integer(fields)
-	if !ok {
-		return voidNode()
-	}
-	if _, ok := fixed(x); ok {
-		return voidNode()
-	}
-	digits, _ := limbs.Print(x, 10)
-	return api.Node{Kind: api.GInt, Text: digits}
 }

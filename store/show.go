@@ -79,7 +79,7 @@ func (s *shower) object(p api.Word, kind int) (api.Node, []api.Word) {
 	case api.TBytes:
 		return bytesNode(s.fields(p)), nil
 	case api.TBig:
-		return bigNode(s.fields(p)), nil
+		return bigNode(s.heap, p), nil
 	case api.TCond:
 		return conditionNode(s.fields(p))
 	case api.TValues:
